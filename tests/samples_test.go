@@ -1,5 +1,7 @@
 package tests
 
+import "loop.example/g00716/impl"
+
 // stringsOver returns all strings of at most n bytes over the given bytes.
 func stringsOver(letters string, n int) []string {
 	all := []string{""}
@@ -33,4 +35,13 @@ func oddTexts() []string {
 		"", "\x00", "a\x00b", "\x7f", "\x80", "\xc3", "\xc3\xa4", "\xff", "\xff\xfe",
 		"\xc0\xa0", "\xed\xa0\x80", "\u00a0", "\ufffd", "\U0001f600", "A\xc4Z", "a\r\nb", "\ufeffa", everyByte(),
 	}
+}
+
+// pairsOf returns the pairs of the given keys and values, which alternate.
+func pairsOf(texts ...string) []impl.Pair {
+	var list []impl.Pair
+	for i := 0; i+1 < len(texts); i += 2 {
+		list = append(list, impl.Pair{Key: texts[i], Value: texts[i+1]})
+	}
+	return list
 }
